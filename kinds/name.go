@@ -9,6 +9,32 @@ import (
 
 // Get tells the type of a number, in any list of types.
 func Get(l []api.Type, typ int) (api.Type, bool) {
+	t, ok := standing(l, typ)
+	return copied(t), ok
+}
+
+// Name tells how a type is written, in any list of types.
+func Name(l []api.Type, typ int) string {
+	var out strings.Builder
+	for range len(l) + 1 { // in more arrays than there are types the Elems lead round in a ring
+		t, _ := standing(l, typ)
+		switch t.Kind {
+		case api.Fixed:
+			out.WriteString("[" + strconv.Itoa(t.Len) + "]")
+		case api.Grow:
+			out.WriteString("[]")
+		default:
+			out.WriteString(nameOf(t))
+			return out.String()
+		}
+		typ = t.Elem
+	}
+	out.WriteString("?")
+	return out.String()
+}
+
+// standing tells the type of a number as Get does, but for its fields' memory, which is the list's.
+func standing(l []api.Type, typ int) (api.Type, bool) {
 	if isFive(typ) {
 		return api.Type{Kind: uint8(typ)}, true
 	}
@@ -16,34 +42,18 @@ func Get(l []api.Type, typ int) (api.Type, bool) {
 	if !ok {
 		return api.Type{}, false
 	}
-	return copied(l[at]), true
+	return l[at], true
 }
 
-// Name tells how a type is written, in any list of types.
-func Name(l []api.Type, typ int) string {
-	var out strings.Builder
-	for range len(l) + 1 { // in more arrays than there are types the Elems lead round in a ring
-		if isFive(typ) {
-			out.WriteString(five[typ-api.I8])
-			return out.String()
-		}
-		at, ok := placeOf(l, typ)
-		if !ok {
-			return out.String()
-		}
-		switch l[at].Kind {
-		case api.Fixed:
-			out.WriteString("[" + strconv.Itoa(l[at].Len) + "]")
-		case api.Grow:
-			out.WriteString("[]")
-		case api.Record:
-			out.WriteString(l[at].Name)
-			return out.String()
-		default:
-			return out.String()
-		}
-		typ = l[at].Elem
+// nameOf tells the name of a type that is no array. Its Kind is asked and not its number, since a list made by hand may hold a
+// type with the Kind of one of the five.
+func nameOf(t api.Type) string {
+	kind := int(t.Kind)
+	switch {
+	case kind == api.Record:
+		return t.Name
+	case isFive(kind):
+		return five[kind-api.I8]
 	}
-	out.WriteString("?")
-	return out.String()
+	return ""
 }

@@ -110,6 +110,37 @@ func TestP6_6Rings(t *testing.T) {
 	}
 }
 
+// A type of a list that has the Kind of one of the five, which Check refuses, is told by Get, and so it is written as that one.
+func TestP6_6FiveInLists(t *testing.T) {
+	for i, want := range []string{"i8", "i32", "i64", "bool", "bytes"} {
+		plain := api.Type{Kind: uint8(1 + i)}
+		other := api.Type{Kind: uint8(1 + i), Name: "P", Fields: []api.Field{field("a", 16)}, Elem: 17, Len: 3}
+		for _, x := range []api.Type{plain, other} {
+			l := []api.Type{x, grow(16), fixed(7, 17), record("Q"), x}
+			if Check(l) != api.ErrTree {
+				t.Errorf("Check takes a list of the Kind of %s", want)
+			}
+			for typ, name := range map[int]string{16: want, 17: "[]" + want, 18: "[7][]" + want, 19: "Q", 20: want, 21: "", 1 + i: want} {
+				if got := Name(l, typ); got != name {
+					t.Errorf("%s: Name(%d): %q, want %q", cut(l), typ, got, name)
+				}
+			}
+			if got := Name([]api.Type{x}, 16); got != want {
+				t.Errorf("%s alone: %q", want, got)
+			}
+			if got, ok := Get(l, 20); !ok || fmt.Sprint(got) != fmt.Sprint(x) {
+				t.Errorf("Get: %v, %t, want %v", got, ok, x)
+			}
+		}
+	}
+	for _, kind := range []uint8{0, 9, 10, 15, 16, 17, 40, 127, 128, 254, 255} {
+		l := []api.Type{{Kind: kind, Name: "P", Elem: 1, Len: 2}, grow(16)}
+		if got, within := Name(l, 16), Name(l, 17); got != "" || within != "[]" {
+			t.Errorf("a Kind that is no type's (%d): %q, and in an array %q", kind, got, within)
+		}
+	}
+}
+
 // Lists whose numbers lead nowhere: what is there is written, and nothing in the place of what is not.
 func TestP6_6AnyLists(t *testing.T) {
 	if got := Name([]api.Type{grow(99)}, 16); got != "[]" {
@@ -121,7 +152,7 @@ func TestP6_6AnyLists(t *testing.T) {
 	m := newAuthor(66, 0)
 	for range 3000 {
 		l := several(m.Intn(8), func(int) api.Type {
-			return api.Type{Kind: []uint8{0, 6, 7, 7, 8, 8, 8, 9, 255}[m.Intn(9)], Name: m.one("", "P", "a b"), Elem: m.Intn(28) - 1, Len: m.Intn(4) - 1}
+			return api.Type{Kind: []uint8{0, 1, 2, 3, 4, 5, 6, 6, 7, 7, 7, 8, 8, 8, 8, 9, 255}[m.Intn(17)], Name: m.one("", "P", "a b"), Elem: m.Intn(28) - 1, Len: m.Intn(4) - 1}
 		})
 		for typ := -1; typ < 30; typ++ {
 			if got, want := Name(l, typ), plainName(l, typ, 0); got != want {

@@ -184,6 +184,8 @@ func plainName(l []api.Type, typ, arrays int) string {
 		return ""
 	}
 	switch t := l[typ-16]; t.Kind {
+	case 1, 2, 3, 4, 5:
+		return plainFive[t.Kind]
 	case 6:
 		return t.Name
 	case 7:
