@@ -304,9 +304,9 @@ func (m *author) arms(typ string, size int) string {
 		next++
 		text := fmt.Sprint(m.one("", "-"), next)
 		if m.slip() {
-			text = m.one("1", "-1", "255", "0", "-0", "4294967295", "18446744073709551615", "256")
+			text = m.one("1", "-1", "255", "0", "-0", "4294967295", "4294967296", "18446744073709551615", "256", "-256", "300")
 		}
-		if m.Intn(4) == 0 && len(text) < 5 && text != "256" && strings.HasPrefix(typ, "i") {
+		if m.Intn(4) == 0 && len(text) < 5 && !slices.Contains([]string{"256", "-256", "300"}, text) && strings.HasPrefix(typ, "i") {
 			text += typ
 		}
 		if m.slip() {

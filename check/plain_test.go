@@ -294,12 +294,12 @@ func (r *plainReader) plainSwitch(n api.Node) api.Term {
 			}
 			c := api.Term{Op: api.SCase}
 			for _, x := range arm.Kids[:len(arm.Kids)-1] {
-				number, named := x.N, x.Text
+				number, named, written := x.N, x.Text, x.N
 				if x.Kind == api.XNeg {
-					number, named = ^x.Kids[0].N+1, x.Kids[0].Text
+					number, named, written = ^x.Kids[0].N+1, x.Kids[0].Text, x.Kids[0].N
 				}
 				low := fmt.Sprintf("%064b", number)[64-width:]
-				if named != "" && named != fmt.Sprint("i", width) || had[low] > 0 {
+				if named != "" && named != fmt.Sprint("i", width) || len(fmt.Sprintf("%b", written)) > width || had[low] > 0 {
 					r.wrong(x.At, api.ErrCase)
 				}
 				had[low]++

@@ -174,3 +174,14 @@ func signed(typ int, n uint64) int64 {
 	}
 	return int64(n)
 }
+
+// has: is this, as it is written, a number of a type? One of w bits has them up to 2^w - 1.
+func has(typ int, n uint64) bool {
+	switch typ {
+	case api.I8:
+		return n == uint64(uint8(n))
+	case api.I32:
+		return n == uint64(uint32(n))
+	}
+	return true
+}

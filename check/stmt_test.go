@@ -2,6 +2,7 @@ package check
 
 import (
 	"fmt"
+	"strconv"
 	"strings"
 	"testing"
 
@@ -83,6 +84,42 @@ func TestP8_1Turns(t *testing.T) {
 	refused(t, "fn f() { L: while true { } } fn g() { §break L; }", api.ErrLabel)
 }
 
+// A number without a suffix is one of the value's type, or none at all: then it is refused, whether or not another one stands ahead, and ahead of the -.
+func TestP8_1CaseBeyondItsType(t *testing.T) {
+	for _, x := range []struct {
+		local, typ, most string
+		beyond           []string
+	}{
+		{"a", "1", "255", []string{"256", "257", "300", "384", "511", "512", "65535", "4294967295", "4294967296", "9223372036854775808", "18446744073709551360", "18446744073709551615"}},
+		{"i", "2", "4294967295", []string{"4294967296", "4294967297", "6442450944", "8589934591", "9223372036854775808", "18446744069414584320", "18446744073709551615"}},
+		{"n", "3", "18446744073709551615", nil},
+	} {
+		start, end := "SSwitch(XName:"+x.typ+map[string]string{"a": "", "i": "#6", "n": "#5"}[x.local]+" SCase(XInt:"+x.typ, " SBlock) SBlock)"
+		body(t, "switch "+x.local+" { case "+x.most+": }", start+"#-1"+end)
+		body(t, "switch "+x.local+" { case -"+x.most+": }", start+"#1"+end)
+		for _, number := range x.beyond {
+			for _, form := range []string{"case §%: ", "case §-%: ", "case 7, §%: ", "case 7: case §-%, 7: ", "case §%: zz(); default: yy(); "} {
+				bad(t, api.ErrCase, "switch "+x.local+" { "+strings.ReplaceAll(form, "%", number)+"}")
+			}
+			body(t, "switch n { case "+number+": }", "SSwitch(XName:3#5 SCase(XInt:3#"+asSigned(number)+" SBlock) SBlock)")
+		}
+	}
+	// what stands ahead is what is wrong first
+	bad(t, api.ErrName, "switch a { case 1: §zz(); case 256: }", "switch §zz { case 256: }")
+	bad(t, api.ErrCase, "switch a { case §256, 256: }", "switch a { case 1, §1, 256: }", "switch a { case §256: zz(); case 1: }")
+	bad(t, api.ErrOperand, "§switch o { case 256: }")
+	bad(t, api.ErrTwice, "L: while o { L: §switch a { case 256: } }")
+}
+
+// asSigned tells digits, at most 2^64 - 1, as those of a signed number of 64 bits.
+func asSigned(digits string) string {
+	n, err := strconv.ParseUint(digits, 10, 64)
+	if err != nil {
+		panic(err)
+	}
+	return strconv.FormatInt(int64(n), 10)
+}
+
 func TestP8_1Switches(t *testing.T) {
 	body(t, "switch a { case 1, -2, 3i8: n = 1; case -4i8: default: n = 2; }", "SSwitch(XName:1 SCase(XInt:1#1 XInt:1#-2 XInt:1#3 SBlock(SPut#5(XInt:3#1))) SCase(XInt:1#-4 SBlock) SBlock(SPut#5(XInt:3#2)))")
 	body(t, "switch n { } switch i { default: } switch a + a { case 0: }", "SSwitch(XName:3#5 SBlock) SSwitch#1(XName:2#6 SBlock) SSwitch#2(XAdd:1(XName:1 XName:1) SCase(XInt:1 SBlock) SBlock)")
@@ -90,9 +127,9 @@ func TestP8_1Switches(t *testing.T) {
 	body(t, "switch a { case 127, 128, 255, 254i8, -127, -3, -253: }", "SSwitch(XName:1 SCase(XInt:1#127 XInt:1#-128 XInt:1#-1 XInt:1#-2 XInt:1#-127 XInt:1#-3 XInt:1#3 SBlock) SBlock)")
 	body(t, "switch i { case 4294967295, 2147483648i32, -2, -2147483647i32: }", "SSwitch(XName:2#6 SCase(XInt:2#-1 XInt:2#-2147483648 XInt:2#-2 XInt:2#-2147483647 SBlock) SBlock)")
 	body(t, "switch n { case 18446744073709551615, 9223372036854775808i64, -2, 255: }", "SSwitch(XName:3#5 SCase(XInt:3#-1 XInt:3#-9223372036854775808 XInt:3#-2 XInt:3#255 SBlock) SBlock)")
-	body(t, "switch a { case 300: } switch a { case -128: } switch n { case 44, 300: }", "SSwitch(XName:1 SCase(XInt:1#44 SBlock) SBlock) SSwitch#1(XName:1 SCase(XInt:1#-128 SBlock) SBlock) SSwitch#2(XName:3#5 SCase(XInt:3#44 XInt:3#300 SBlock) SBlock)")
-	bad(t, api.ErrCase, "switch a { case 255, §-1: }", "switch a { case 1: case §1: }", "switch a { case 1, §1i8: }", "switch a { case -128, §128: }", "switch a { case 0, §-0: }", "switch a { case 0, §256: }", "switch a { case 1, §-255: }", "switch a { case 44: case §300: }",
-		"switch i { case 4294967295, §-1: }", "switch n { case 18446744073709551615, §-1: }", "switch n { case -9223372036854775808, §9223372036854775808: }", "switch n { case 7: case 8: case 9, §7: }", "switch i { case 4294967296, §0: }")
+	body(t, "switch a { case -128: } switch n { case 44, 300: }", "SSwitch(XName:1 SCase(XInt:1#-128 SBlock) SBlock) SSwitch#1(XName:3#5 SCase(XInt:3#44 XInt:3#300 SBlock) SBlock)")
+	bad(t, api.ErrCase, "switch a { case 255, §-1: }", "switch a { case 1: case §1: }", "switch a { case 1, §1i8: }", "switch a { case -128, §128: }", "switch a { case 0, §-0: }", "switch a { case 1, §-255: }",
+		"switch i { case 4294967295, §-1: }", "switch n { case 18446744073709551615, §-1: }", "switch n { case -9223372036854775808, §9223372036854775808: }", "switch n { case 7: case 8: case 9, §7: }", "switch i { case 0, §0: }")
 	bad(t, api.ErrCase, "switch a { case §1i64: }", "switch a { case §1i32: }", "switch i { case 1i32, §2i8: }", "switch n { case §-1i8: }", "switch n { case 1i64, §-1i32: }", "switch a { case 1: case §-1i64, 1: }")
 	bad(t, api.ErrOperand, "§switch o { }", "§switch t { case 1, 1: }", "§switch p { default: zz(); }", "§switch b { }")
 	bad(t, api.ErrName, "switch §zz { case 1, 1: }", "switch n { case 1: §zz(); case 1: }", "switch n { case 1: §zz(); default: yy(); }", "switch n { default: §yy(); }")

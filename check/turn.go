@@ -97,17 +97,18 @@ func (w *walker) arm(n api.Node, typ int, ahead map[int64]struct{}) api.Term {
 	return term(api.SCase, append(kids, w.block(n.Kids[len(n.Kids)-1]))...)
 }
 
-// caseNumber tells the number of a case (an XInt, or an XNeg of one) as one of a type; false, if its suffix is another one's.
+// caseNumber tells the number of a case (an XInt, or an XNeg of one) as one of a type; false, if its suffix is another one's, or the type has no such number.
 func caseNumber(n api.Node, typ int) (int64, bool) {
 	turned := n.Kind == api.XNeg
 	if turned {
 		n = n.Kids[0]
 	}
+	fits := (n.Text == "" || suffix(n.Text) == typ) && has(typ, n.N) // ahead of the -, which turns a number of the type
 	number := n.N
 	if turned {
 		number = -number
 	}
-	return signed(typ, number), n.Text == "" || suffix(n.Text) == typ
+	return signed(typ, number), fits
 }
 
 // leap tells the term of an NBreak or NContinue.
