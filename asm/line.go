@@ -37,10 +37,15 @@ func (l *line) fail(at int) {
 	}
 }
 
-// refuse fails at the next word, which may not stand there, or at the line's end, if one is wanting there.
+// refuse fails at the next word, which may not stand there, or at the line's end, if one is wanting there. A " that begins no string begins
+// no word either: what may stand there is not asked of it, and it is told where it stops being a string.
 func (l *line) refuse() {
 	l.skip()
-	l.fail(l.at)
+	at := l.at
+	if _, size, ok := quoted(l.text[at:]); !ok {
+		at += size
+	}
+	l.fail(at)
 }
 
 // skip goes on to the next word, or to the line's end: a remark's ; is that, once it is seen.
@@ -102,26 +107,36 @@ func numberOf(s string) (int64, bool) {
 
 // str reads a string, and tells what it stands for.
 func (l *line) str() string {
-	if !l.more() || l.text[l.at] != '"' {
-		l.refuse()
-		return ""
+	if l.more() {
+		if s, size, ok := quoted(l.text[l.at:]); ok {
+			l.at += size
+			return s
+		}
+	}
+	l.refuse()
+	return ""
+}
+
+// quoted tells what the string stands for that the rest of a line begins with, and how many bytes it has; false: it begins with none, and so
+// many bytes are ahead of what is wrong with it (0, if there is not even a ").
+func quoted(s string) (string, int, bool) {
+	if !strings.HasPrefix(s, `"`) {
+		return "", 0, false
 	}
 	var b []byte
-	for at := l.at + 1; at < len(l.text); {
-		if l.text[at] == '"' {
-			l.at = at + 1
-			return string(b)
-		}
-		c, size := piece(l.text[at:])
+	at := 1
+	for at < len(s) && s[at] != '"' {
+		c, size := piece(s[at:])
 		if size == 0 {
-			l.fail(at)
-			return ""
+			return "", at, false
 		}
 		b = append(b, c)
 		at += size
 	}
-	l.fail(len(l.text))
-	return ""
+	if at == len(s) {
+		return "", at, false
+	}
+	return string(b), at + 1, true
 }
 
 // piece tells the byte that the beginning of s stands for within a string, and how many bytes it has; 0: it may not stand there.

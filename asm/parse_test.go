@@ -62,6 +62,8 @@ func TestP14_2FarBeyond(t *testing.T) {
 	}
 	refused(t, strings.Repeat("x", 1<<25), 0, api.ErrAsm)
 	refused(t, "grow "+strings.Repeat("1", 1<<24), 5, api.ErrAsm)
+	refused(t, "grow \""+strings.Repeat("1", 1<<24), 6+(1<<24), api.ErrAsm)
+	refused(t, "grow "+strings.Repeat("\"", 1<<24), 5, api.ErrAsm)
 	reads(t, strings.Repeat("\n", 1<<25), api.Module{})
 	reads(t, ";"+strings.Repeat("\"", 1<<24), api.Module{})
 }
@@ -93,8 +95,11 @@ func TestP14_2Words(t *testing.T) {
 			refused(t, "grow\n1", 4, api.ErrAsm)
 			reads(t, "grow 1\n", api.Module{Types: []api.Type{{Kind: api.Grow, Elem: 1}}})
 			reads(t, "\ngrow 1", api.Module{Types: []api.Type{{Kind: api.Grow, Elem: 1}}})
-		case ";", "\"":
+		case ";":
 			refused(t, "grow"+b+"1", 4, api.ErrAsm)
+		case "\"":
+			refused(t, "grow"+b+"1", 6, api.ErrAsm) // a string without an end
+			refused(t, "grow"+b+"1"+b, 4, api.ErrAsm)
 		default: // any other byte is a word's: also \v, \f, 0 and those above 127, alone or as parts of a blank of Unicode's
 			refused(t, "grow"+b+"1", 0, api.ErrAsm)
 			refused(t, b+"grow 1", 0, api.ErrAsm)
@@ -104,8 +109,8 @@ func TestP14_2Words(t *testing.T) {
 			}
 		}
 	}
-	wrong(t, "@grow\u00a01", "@grow\u20031", "grow @\ufeff1", "@grow\v1", "@grow\f1", "@grow\x001", "@GROW 1", "@Grow 1", "@\"grow\" 1", "@grow1", "@1", "@-", "@\"\"", "@\"")
-	wrong(t, `record @P`, `record "P"@a`, `record "P" "a"@"b"`, `record "P" "a"@`, `record "P""a"@-`, `record"P"@1`, `text "a"@"b"`, `text "a"@"`)
+	wrong(t, "@grow\u00a01", "@grow\u20031", "grow @\ufeff1", "@grow\v1", "@grow\f1", "@grow\x001", "@GROW 1", "@Grow 1", "@\"grow\" 1", "@grow1", "@1", "@-", "@\"\"", "\"@")
+	wrong(t, `record @P`, `record "P"@a`, `record "P" "a"@"b"`, `record "P" "a"@`, `record "P""a"@-`, `record"P"@1`, `text "a"@"b"`, `text "a""@`)
 }
 
 func TestP14_2Remarks(t *testing.T) {
@@ -181,10 +186,49 @@ func TestP14_2NoEnd(t *testing.T) {
 	wrong(t, `record "a@`, `record "a" "b ; 1@`, `func "f 0 0@`, "func \"f ; 0 0@\nparams", `text "\22@`, `text "\5c@`)
 }
 
-// A string with a fault where no string may stand: the word is wrong, ahead of what is in it.
+// noStrings are rows of bytes that begin with a " and with no string, the @ ahead of what is wrong; strs are strings.
+var (
+	noStrings = []string{`"@`, `"a@`, `" @`, `"a b@`, `"a ; b@`, `";@`, `"1@`, `"else@`, `"\22@`, "\"@\r\"", `"@\`, `"@\"`, `"a@\4`, `"@\4"`, `"\41@\4g"`, `"@\zz"`, `"a@\FF" 1`, "\"@\x00\"", "\"@\x01\" ; a", "\"a@\x7f", "\"a@\xff\"", "\"@\t\"", "\"a @\rb"}
+	strs      = []string{`""`, `"a"`, `" ; "`, `"\22"`, `"1"`, `"else"`, `"5:1"`, `"pop"`}
+)
+
+// Where no string may stand, a whole one is a word, and wrong at its "; what begins with a " and is no string is no word, and told where it
+// stops being one.
+func TestP14_2WholeStringsInWrongPlaces(t *testing.T) {
+	for _, x := range strs {
+		for _, s := range withoutStrings() {
+			wrong(t, s+"@"+x, s+"@"+x+" ; a\n", s+"@"+x+"\"", s+"@"+x+" \"\\", s+"@"+x+"\nx", s+"@"+x+" x 1")
+		}
+	}
+}
+
+func TestP14_2NoStringsInWrongPlaces(t *testing.T) {
+	for _, x := range noStrings {
+		for _, s := range withoutStrings() {
+			wrong(t, s+x, s+"\t"+x, s+x+"\n", s+x+"\n\"", s+x+"\nend\n")
+		}
+	}
+}
+
+// withoutStrings tells beginnings of texts behind which no string may stand.
+func withoutStrings() []string {
+	head := "func \"f\" 9 9\n"
+	within := head + "params\nresults\n"
+	list := []string{"", " ", "grow 1\n", ";\n", inFunc("pop"), "grow ", "grow", "grow 1 ", "grow 1", "fixed ", "fixed 1 ", "fixed 1 2 ", `record "a" "b" `, `record "a""b"`, `text "a" `, `text "a"`,
+		`func "f" `, `func "f"`, `func "f" 0 `, `func "f" 0 0 `, head, head + "params ", head + "params 1 ", head + "params 99 ", head + "params\n", head + "params\nresults ", head + "params\nresults 1 ", within, within + "end ", within + "pop\n"}
+	for _, s := range []string{"true ", "true", "get ", "get 1 ", "get 70000 ", "text ", "text 0 ", "conv ", "conv 1 ", "conv 9 9 ", "i8 128 ", "switch ", "switch 1 ", "switch 1 5:1 ", "switch 1 5:1", "switch 1 else ", "switch 1 else 1 ", "switch 9 999:-1 else -1 "} {
+		list = append(list, within+s)
+	}
+	return list
+}
+
+// A word that may not stand there is told ahead of what begins with a " behind it, and that ahead of what is wrong behind it.
 func TestP14_2FaultsInWrongWords(t *testing.T) {
-	wrong(t, `grow @"\zz"`, `grow @"a`, `grow 1 @"\zz"`, "grow @\"\x00\"", `text "a"@"\4"`, `text "a" @"b`, `@"\zz"`, `@"a`, `@growl "\zz"`, `@growl "a`, `record "a" "b" @"c`, `fixed 1 @"`)
-	wrong(t, inFunc(`text @"\4"`), inFunc(`switch 1 @"\4" else 1`), inFunc(`pop @"`), "func \"f\" 0 0\nparams @\"x", `func "f" @"x`, `text "@\4"x "\5`, "grow 1\n@x\ntext \"\\\"")
+	for _, x := range append([]string{`"`, `"a`, `"\zz"`, "\"\x00\""}, strs...) {
+		wrong(t, "@growl "+x, "@growl"+x, "grow @x "+x, "grow @x"+x, "grow 1 @2"+x, "grow @01 "+x, "fixed 1 @- "+x, "text @a "+x, `record "a" @b`+x, `func "f" 0 0 @0 `+x, "@params "+x, "grow@\n"+x, "grow@;"+x)
+		wrong(t, inFunc("pop @x "+x), inFunc("@popp "+x), inFunc("switch 1 @x "+x), inFunc("switch 1 else @5:1"+x), inFunc("@i8 128 ; "+x), inFunc("@i8 128\n"+x), inFunc("@x\n"+x), inFunc("@record "+x), "func \"f\" 0 0\n@results "+x)
+	}
+	wrong(t, `text "@\4"x "\5`, "grow 1\n@x\ntext \"\\\"", "\"@\x00 \x01\"", `"@\4 \5`, "grow 1 \"@\x00\"\ngrow x", `text "a" "@\4" "\5"`, `text "a" @"b" "\5"`)
 }
 
 func TestP14_2Numbers(t *testing.T) {
@@ -233,7 +277,7 @@ func TestP14_2FewAndMany(t *testing.T) {
 	wrong(t, `fixed@`, `fixed 1@`, `fixed 1 2 @3`, `fixed 1 2 @x`, `fixed @"a"`, `grow@`, `grow 1 @1`, `grow 1 @"a"`, `text@`, `text "a" @"b"`, `text "a" @1`, `text @1`, `text @a`)
 	wrong(t, `func@`, `func "f"@`, `func "f" 0@`, `func "f" 0 0 @0`, `func "f" 0 0 @params`, `func @f 0 0`, `func @0 0`, "func \"f\" 0@\nparams")
 	head := "func \"f\" 0 0\n"
-	wrong(t, head+"params @x", head+"params 1 @\"a\"", head+"params 1 2 3 @results", head+"params\nresults @x", head+"params\nresults 1 @end", head+"params\nresults\nend @1", head+"params\nresults\nend @end", head+"params\nresults\nend @\"")
+	wrong(t, head+"params @x", head+"params 1 @\"a\"", head+"params 1 2 3 @results", head+"params\nresults @x", head+"params\nresults 1 @end", head+"params\nresults\nend @1", head+"params\nresults\nend @end", head+"params\nresults\nend @\"\"", head+"params\nresults\nend \"@")
 	lines, _ := instructions()
 	for _, s := range lines {
 		words := strings.Fields(s)

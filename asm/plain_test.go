@@ -120,24 +120,23 @@ func plainSteps(part, name string) (string, byte, bool) {
 	return []string{"", "0n1", "0n1 1n2"}[counts[op]], "012"[counts[op]], true
 }
 
-// plainWrong tells the place of what is wrong with a line's words; false, if nothing is.
+// plainWrong tells the place of what is wrong with a line's words; false, if nothing is. A string with a fault is no word, and wrong at that.
 func plainWrong(part string, words []plainWord, end int) (int, bool) {
 	steps, last, ok := plainSteps(part, words[0].text)
-	if !ok || words[0].kind == "s" || words[0].kind == "b" {
+	switch {
+	case words[0].kind == "b":
+		return words[0].bad, true
+	case !ok || words[0].kind == "s":
 		return words[0].at, true
 	}
 	state := byte('0')
 	for _, w := range words[1:] {
-		asked := w.kind
-		if asked == "b" {
-			asked = "s"
-		}
-		i := strings.Index(steps, string(state)+asked)
-		if i < 0 {
-			return w.at, true
-		}
 		if w.kind == "b" {
 			return w.bad, true
+		}
+		i := strings.Index(steps, string(state)+w.kind)
+		if i < 0 {
+			return w.at, true
 		}
 		state = steps[i+2]
 	}

@@ -73,7 +73,8 @@ next:
 			}
 			continue next
 		}
-		return r.first, false
+		r.refuse()
+		return r.fault, false
 	}
 	if r.part != outside {
 		return len(s), false
